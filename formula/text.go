@@ -4,7 +4,7 @@ import (
 	"strconv"
 
 	"bogie/api"
-	"bogie/lexer"
+	"bogie/reader"
 )
 
 // word returns the word, or the symbol, of an operation.
@@ -52,78 +52,27 @@ func operand(f, kid api.Formula, second bool) string {
 	return text(kid)
 }
 
-// failure is the error of a text, with its offset.
-type failure struct {
-	err api.Errno
-	at  int
-}
-
-type parser struct {
-	tokens []api.Token
-	next   int
-	end    int // the length of the text
-}
-
 // Parse returns the formula of a text.
-func Parse(s string) (f api.Formula, err api.Errno, at int) {
-	tokens, err, at := lexer.Lex(s)
-	if err != api.OK {
-		return api.Formula{}, err, at
-	}
-	defer func() {
-		if e := recover(); e != nil {
-			known, ok := e.(failure)
-			if !ok {
-				known = failure{api.ErrSyntax, 0}
-			}
-			f, err, at = api.Formula{}, known.err, known.at
-		}
-	}()
-	p := &parser{tokens: tokens, end: len(s)}
-	f = p.sum()
-	if p.next < len(tokens) {
-		p.fail()
-	}
-	if !Valid(f) {
+func Parse(s string) (api.Formula, api.Errno, int) {
+	f, err, at := reader.Read(s, sum)
+	if err == api.OK && !Valid(f) {
 		return api.Formula{}, api.ErrLimit, 0
 	}
-	return f, api.OK, 0
+	return f, err, at
 }
 
-// fail panics with the error of the next token.
-func (p *parser) fail() {
-	if p.next == len(p.tokens) {
-		panic(failure{api.ErrEnd, p.end})
-	}
-	panic(failure{api.ErrSyntax, p.tokens[p.next].At})
-}
+func sum(r *reader.Reader) api.Formula { return level(r, product, api.FormAdd, api.FormSub) }
 
-// is reports whether the next token has a kind and a text.
-func (p *parser) is(kind int, text string) bool {
-	return p.next < len(p.tokens) && p.tokens[p.next].Kind == kind && p.tokens[p.next].Text == text
-}
+func product(r *reader.Reader) api.Formula { return level(r, factor, api.FormMul, api.FormDiv) }
 
-// symbol takes a symbol that must be there.
-func (p *parser) symbol(text string) {
-	if !p.is(api.TokenSymbol, text) {
-		p.fail()
-	}
-	p.next++
-}
-
-func (p *parser) sum() api.Formula { return p.level(p.product, api.FormAdd, api.FormSub) }
-
-func (p *parser) product() api.Formula { return p.level(p.factor, api.FormMul, api.FormDiv) }
-
-// level takes what has operators of one kind, which belong together from the left.
-func (p *parser) level(part func() api.Formula, ops ...int) api.Formula {
-	f := part()
+// level reads what has operators of one kind, which belong together from the left.
+func level(r *reader.Reader, part func(r *reader.Reader) api.Formula, ops ...int) api.Formula {
+	f := part(r)
 	for more := true; more; {
 		more = false
 		for _, op := range ops {
-			if p.is(api.TokenSymbol, word(op)) {
-				p.next++
-				f = api.Formula{Op: op, Kids: []api.Formula{f, part()}}
+			if r.Took(api.TokenSymbol, word(op)) {
+				f = api.Formula{Op: op, Kids: []api.Formula{f, part(r)}}
 				more = true
 			}
 		}
@@ -131,33 +80,30 @@ func (p *parser) level(part func() api.Formula, ops ...int) api.Formula {
 	return f
 }
 
-func (p *parser) factor() api.Formula {
-	if p.next < len(p.tokens) && p.tokens[p.next].Kind == api.TokenNumber {
-		n, _ := strconv.Atoi(p.tokens[p.next].Text)
-		p.next++
-		return api.Formula{Op: api.FormNumber, N: n}
+func factor(r *reader.Reader) api.Formula {
+	if r.Next().Kind == api.TokenNumber {
+		return api.Formula{Op: api.FormNumber, N: r.Number()}
 	}
 	for _, op := range []int{api.FormKm, api.FormCycles, api.FormLoad, api.FormMin, api.FormMax, api.FormIf} {
-		if p.is(api.TokenName, word(op)) {
-			p.next++
-			return api.Formula{Op: op, Kids: p.kids(arity(op))}
+		if r.Took(api.TokenName, word(op)) {
+			return api.Formula{Op: op, Kids: kids(r, arity(op))}
 		}
 	}
-	p.symbol("(")
-	f := p.sum()
-	p.symbol(")")
+	r.Symbol("(")
+	f := sum(r)
+	r.Symbol(")")
 	return f
 }
 
-// kids takes a number of kids in parentheses.
-func (p *parser) kids(number int) []api.Formula {
+// kids reads a number of kids in parentheses.
+func kids(r *reader.Reader, number int) []api.Formula {
 	var l []api.Formula
 	for i := range number {
-		p.symbol([...]string{"(", ",", ","}[i])
-		l = append(l, p.sum())
+		r.Symbol([...]string{"(", ",", ","}[i])
+		l = append(l, sum(r))
 	}
 	if number > 0 {
-		p.symbol(")")
+		r.Symbol(")")
 	}
 	return l
 }

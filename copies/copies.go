@@ -1,0 +1,38 @@
+// Package copies has deep copies of what package api has: a copy shares no memory with the original.
+package copies
+
+import (
+	"slices"
+
+	"bogie/api"
+)
+
+// list returns a copy of a list, each element of which is copied by a function.
+func list[T any](l []T, one func(T) T) []T {
+	if l == nil {
+		return nil
+	}
+	c := make([]T, 0, len(l))
+	for _, e := range l {
+		c = append(c, one(e))
+	}
+	return c
+}
+
+// Kind returns a copy of a kind.
+func Kind(k api.Kind) api.Kind {
+	k.Slots = list(k.Slots, func(s api.Slot) api.Slot {
+		s.Kinds = slices.Clone(s.Kinds)
+		return s
+	})
+	return k
+}
+
+// Part returns a copy of a part.
+func Part(p api.Part) api.Part {
+	p.Props = slices.Clone(p.Props)
+	return p
+}
+
+// State returns a copy of a state.
+func State(s api.State) api.State { return api.State{Parts: list(s.Parts, Part)} }
