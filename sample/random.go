@@ -1,0 +1,78 @@
+package sample
+
+import (
+	"strconv"
+
+	"bogie/api"
+)
+
+// parts are those of random events, with their kinds.
+func parts() [][2]string {
+	return [][2]string{{"a1", "axle"}, {"a2", "axle"}, {"w1", "wheelset"}, {"w2", "wheelset"}, {"m1", "motor"}, {"v1", "coach"}, {"v2", "coach"}}
+}
+
+// RandomEvent returns an event of a day for one of the parts a1, a2, w1, w2, m1, v1 and v2; pick chooses a number that is less than another one.
+func RandomEvent(pick func(n int) int, day int) api.Event {
+	l := parts()
+	p := l[pick(len(l))]
+	e := api.Event{Op: api.OpMake + pick(7), Day: day, Part: p[0]}
+	switch e.Op {
+	case api.OpMake:
+		e.Kind = p[1]
+	case api.OpFit:
+		return randomFit(pick, e)
+	case api.OpRun:
+		e.Part = l[5+pick(2)][0]
+		km, cycles := pick(50), pick(5)
+		e.Use = api.Use{Km: In(km, km+pick(20)), Cycles: In(cycles, cycles), Load: In(0, pick(9))}
+	case api.OpNote:
+		e.Key, e.Value = "batch", []string{"A", "B"}[pick(2)]
+	}
+	return e
+}
+
+// randomFit returns an event that fits a part where its kind belongs.
+func randomFit(pick func(n int) int, e api.Event) api.Event {
+	switch pick(3) {
+	case 0:
+		e.Part, e.Into, e.Slot = "a"+strconv.Itoa(1+pick(2)), "w"+strconv.Itoa(1+pick(2)), "axle"
+	case 1:
+		e.Part, e.Into, e.Slot = "w"+strconv.Itoa(1+pick(2)), "v"+strconv.Itoa(1+pick(2)), []string{"front", "rear"}[pick(2)]
+	default:
+		e.Part, e.Into, e.Slot = []string{"m1", "a1"}[pick(2)], "v"+strconv.Itoa(1+pick(2)), "m"
+	}
+	return e
+}
+
+// RandomEvents returns the making of all these parts, and a number of further events, on increasing days.
+func RandomEvents(pick func(n int) int, number int) []api.Event {
+	var l []api.Event
+	for _, p := range parts() {
+		l = append(l, api.Event{Op: api.OpMake, Day: pick(2), Part: p[0], Kind: p[1]})
+	}
+	for i := range number {
+		e := RandomEvent(pick, 2+i)
+		if e.Op != api.OpMake && (e.Op != api.OpScrap || pick(4) == 0) {
+			l = append(l, e)
+		}
+	}
+	return l
+}
+
+// RandomReports returns reports of such events, some of which have two options, or may be false.
+func RandomReports(pick func(n int) int, number, doubts int) []api.Report {
+	var l []api.Report
+	for _, e := range RandomEvents(pick, number) {
+		r := api.Report{Options: []api.Event{e}}
+		if e.Op != api.OpMake && doubts > 0 && pick(2) == 0 {
+			doubts--
+			other := RandomEvent(pick, e.Day+pick(2))
+			r.Doubtful = pick(2) == 0 || other == e
+			if other != e && pick(3) > 0 {
+				r.Options = append(r.Options, other)
+			}
+		}
+		l = append(l, r)
+	}
+	return l
+}
