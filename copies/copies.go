@@ -36,3 +36,15 @@ func Part(p api.Part) api.Part {
 
 // State returns a copy of a state.
 func State(s api.State) api.State { return api.State{Parts: list(s.Parts, Part)} }
+
+// Expr returns a copy of a condition.
+func Expr(e api.Expr) api.Expr {
+	e.Kids = list(e.Kids, Expr)
+	return e
+}
+
+// Rule returns a copy of a rule.
+func Rule(r api.Rule) api.Rule {
+	r.Cond = Expr(r.Cond)
+	return r
+}

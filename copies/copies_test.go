@@ -38,3 +38,11 @@ func TestState(t *testing.T) {
 	separate(t, original, copies.State, func(s api.State) { s.Parts[0].Props[0].Value = "x" })
 	separate(t, func() api.Part { return original().Parts[0] }, copies.Part, func(p api.Part) { p.Props[0].Key = "x" })
 }
+
+func TestRule(t *testing.T) {
+	original := func() api.Rule {
+		return api.Rule{Name: "r", Cond: api.Expr{Op: api.ExprNot, Kids: []api.Expr{{Op: api.ExprNot, Kids: []api.Expr{{Op: api.ExprTrue}}}}}}
+	}
+	separate(t, original, copies.Rule, func(r api.Rule) { r.Cond.Kids[0].Op = 7 })
+	separate(t, original, copies.Rule, func(r api.Rule) { r.Cond.Kids[0].Kids[0].Op = 7 })
+}

@@ -76,3 +76,40 @@ func RandomReports(pick func(n int) int, number, doubts int) []api.Report {
 	}
 	return l
 }
+
+// RandomCond returns a valid condition about coaches and their parts, with at most some levels.
+func RandomCond(pick func(n int) int, levels int) api.Expr {
+	name := func(l ...string) string { return l[pick(len(l))] }
+	op := api.ExprTrue + pick(12)
+	if levels == 0 && (op <= api.ExprOr || op == api.ExprAll || op == api.ExprAny) {
+		op = api.ExprLimit
+	}
+	e := api.Expr{Op: op}
+	kids := 0
+	switch op {
+	case api.ExprNot:
+		kids = 1
+	case api.ExprAnd, api.ExprOr:
+		kids = 2 + pick(2)
+	case api.ExprLimit, api.ExprOver:
+		e.Name, e.N = name("km", "cycles", "damage", "days", "age"), pick(60)
+		if op == api.ExprLimit {
+			e.Extra = pick(2) * pick(20)
+		}
+	case api.ExprIs, api.ExprHas:
+		e.Name = name("batch", "owner")
+		if op == api.ExprIs {
+			e.Value = name("A", "B", "\"\\\n")
+		}
+	case api.ExprFitted:
+		e.Name, e.Value = name("front", "rear", "m", "axle"), name("axle", "wheelset", "motor")
+	case api.ExprAll, api.ExprAny:
+		e.Name, kids = name("axle", "wheelset", "motor"), 1
+	case api.ExprCount:
+		e.Name, e.N = name("axle", "wheelset"), 1+pick(2)
+	}
+	for range kids {
+		e.Kids = append(e.Kids, RandomCond(pick, levels-1))
+	}
+	return e
+}
