@@ -113,3 +113,31 @@ func RandomCond(pick func(n int) int, levels int) api.Expr {
 	}
 	return e
 }
+
+// RandomBook returns a book with a few of each of its papers, for coaches v1 and v2 and their parts.
+func RandomBook(pick func(n int) int) api.Book {
+	var b api.Book
+	kind := func() string { return []string{"coach", "wheelset", "axle"}[pick(3)] }
+	part := func() string { return parts()[pick(7)][0] }
+	for i := range pick(3) {
+		b.Rules = append(b.Rules, api.Rule{Name: "r" + strconv.Itoa(i), Kind: kind(), Cond: RandomCond(pick, 1)})
+	}
+	for range pick(2) {
+		b.Subs = append(b.Subs, api.Sub{Kind: "coach", Slot: "m", Other: "axle", To: pick(40)})
+	}
+	for i := range pick(2) {
+		b.Duties = append(b.Duties, api.Duty{Name: "d" + strconv.Itoa(i), Kind: kind(), Key: "batch", After: api.OpMake + pick(7), Within: pick(20)})
+	}
+	for range pick(3) {
+		b.Concessions = append(b.Concessions, api.Concession{Part: part(), Rule: "r" + strconv.Itoa(pick(2)), To: pick(40)})
+	}
+	for i := range pick(2) {
+		b.Recalls = append(b.Recalls, api.Rule{Name: "q" + strconv.Itoa(i), Kind: kind(), Cond: RandomCond(pick, 1)})
+	}
+	for i := range pick(2) {
+		h := api.Hold{Id: "h" + strconv.Itoa(i), Vehicle: part(), Members: []int{0, 1}}
+		h.Back = h.Members[:pick(3)]
+		b.Holds = append(b.Holds, h)
+	}
+	return b
+}
