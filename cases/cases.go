@@ -3,6 +3,7 @@ package cases
 
 import (
 	"bogie/api"
+	"bogie/life"
 	"bogie/link"
 	"bogie/report"
 	"bogie/search"
@@ -19,6 +20,12 @@ func Picked[T any](l []T, indices []int) []T {
 
 // About returns the reports of the component that mentions a part, in order; none if there is no such component.
 func About(l []api.Report, part string) []api.Report { return Picked(l, link.Of(l, part)) }
+
+// IsSetup reports whether a setup is valid.
+func IsSetup(x api.Setup) bool {
+	_, _, err := life.Run(x, nil, 0)
+	return err == api.OK
+}
 
 // AreValid reports whether all reports are valid.
 func AreValid(l []api.Report) bool {
