@@ -2,6 +2,8 @@
 package cases
 
 import (
+	"slices"
+
 	"bogie/api"
 	"bogie/life"
 	"bogie/link"
@@ -35,6 +37,20 @@ func AreValid(l []api.Report) bool {
 		}
 	}
 	return true
+}
+
+// Made returns the parts that may be made as one of some kinds, each once, in increasing order. (The reports may be any ones.)
+func Made(l []api.Report, of func(kind string) bool) []string {
+	var parts []string
+	for _, r := range l {
+		for _, e := range r.Options {
+			if e.Op == api.OpMake && of(e.Kind) {
+				parts = append(parts, e.Part)
+			}
+		}
+	}
+	slices.Sort(parts)
+	return slices.Compact(parts)
 }
 
 // Histories returns all histories of reports. Errors, with none: ErrArg if the catalog or a report is not valid; ErrLimit if too many reports are doubtful, or there are too many histories; ErrDoubt if there is none.

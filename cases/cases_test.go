@@ -53,3 +53,16 @@ func TestHistories(t *testing.T) {
 		t.Error(got)
 	}
 }
+
+func TestMade(t *testing.T) {
+	l := append(sample.Reports("make 1 b axle | make 1 a axle; make 2 b axle; make 1 w wheelset; scrap 1 z"), api.Report{Options: []api.Event{{Op: api.OpMake, Part: "odd", Kind: "axle"}}})
+	if got := cases.Made(l, func(kind string) bool { return kind == "axle" }); !slices.Equal(got, []string{"a", "b", "odd"}) {
+		t.Error(got)
+	}
+}
+
+func TestIsSetup(t *testing.T) {
+	if !cases.IsSetup(sample.Setup()) || cases.IsSetup(api.Setup{}) {
+		t.Error("IsSetup")
+	}
+}
