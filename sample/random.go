@@ -141,3 +141,21 @@ func RandomBook(pick func(n int) int) api.Book {
 	}
 	return b
 }
+
+// RandomGame returns a small game with at most some vehicles and departures.
+func RandomGame(pick func(n int) int, vehicles, departures int) api.Game {
+	g := api.Game{Budget: pick(3)}
+	for range 1 + pick(vehicles) {
+		g.Starts = append(g.Starts, pick(3))
+	}
+	for range pick(departures + 1) {
+		var allowed []int
+		for v := range g.Starts {
+			if pick(3) > 0 {
+				allowed = append(allowed, v)
+			}
+		}
+		g.Departures = append(g.Departures, allowed)
+	}
+	return g
+}
