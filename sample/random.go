@@ -159,3 +159,17 @@ func RandomGame(pick func(n int) int, vehicles, departures int) api.Game {
 	}
 	return g
 }
+
+// RandomCosts returns warranties of a few makers, and costs for random parts.
+func RandomCosts(pick func(n int) int) ([]api.Warranty, []api.Cost) {
+	var ws []api.Warranty
+	var costs []api.Cost
+	name := func(l ...string) string { return l[pick(len(l))] }
+	for range 1 + pick(3) {
+		ws = append(ws, api.Warranty{Kind: name("axle", "coach", "wheelset"), Maker: name("Forge", "Mill", "Rail"), Days: pick(30), Km: pick(150), Percent: pick(101)})
+	}
+	for range 1 + pick(4) {
+		costs = append(costs, api.Cost{Part: parts()[pick(7)][0], Owner: name("Rail", "Line", "Mill"), Day: pick(25), Amount: pick(2000)})
+	}
+	return ws, costs
+}
