@@ -48,3 +48,36 @@ func Rule(r api.Rule) api.Rule {
 	r.Cond = Expr(r.Cond)
 	return r
 }
+
+// Report returns a copy of a report.
+func Report(r api.Report) api.Report {
+	r.Options = slices.Clone(r.Options)
+	return r
+}
+
+// Record returns a copy of a record.
+func Record(r api.Record) api.Record {
+	r.Members = slices.Clone(r.Members)
+	r.Report = Report(r.Report)
+	r.Amendment.Rule = Rule(r.Amendment.Rule)
+	r.Seal.Sig, r.Seal.Path = slices.Clone(r.Seal.Sig), slices.Clone(r.Seal.Path)
+	return r
+}
+
+// Records returns a copy of a list of records.
+func Records(l []api.Record) []api.Record { return list(l, Record) }
+
+// Formula returns a copy of a formula.
+func Formula(f api.Formula) api.Formula {
+	f.Kids = list(f.Kids, Formula)
+	return f
+}
+
+// World returns a copy of a world.
+func World(w api.World) api.World {
+	w.Setup.Catalog.Kinds = list(w.Setup.Catalog.Kinds, Kind)
+	w.Setup.Damage = Formula(w.Setup.Damage)
+	w.Keys, w.Subs = slices.Clone(w.Keys), slices.Clone(w.Subs)
+	w.Duties, w.Warranties = slices.Clone(w.Duties), slices.Clone(w.Warranties)
+	return w
+}

@@ -46,3 +46,22 @@ func TestRule(t *testing.T) {
 	separate(t, original, copies.Rule, func(r api.Rule) { r.Cond.Kids[0].Op = 7 })
 	separate(t, original, copies.Rule, func(r api.Rule) { r.Cond.Kids[0].Kids[0].Op = 7 })
 }
+
+func TestRecord(t *testing.T) {
+	original := func() api.Record {
+		return api.Record{Members: []int{1}, Report: api.Report{Options: []api.Event{{Op: 1}}}, Amendment: api.Amendment{Rule: api.Rule{Cond: api.Expr{Kids: []api.Expr{{Op: 1}}}}}, Seal: api.Seal{Sig: []string{"a"}, Path: []string{"b"}}}
+	}
+	for _, change := range []func(r api.Record){func(r api.Record) { r.Members[0] = 2 }, func(r api.Record) { r.Report.Options[0].Op = 2 }, func(r api.Record) { r.Amendment.Rule.Cond.Kids[0].Op = 2 }, func(r api.Record) { r.Seal.Sig[0] = "x" }, func(r api.Record) { r.Seal.Path[0] = "x" }} {
+		separate(t, original, copies.Record, change)
+		separate(t, func() []api.Record { return []api.Record{original()} }, copies.Records, func(l []api.Record) { change(l[0]) })
+	}
+}
+
+func TestWorld(t *testing.T) {
+	original := func() api.World {
+		return api.World{Setup: api.Setup{Catalog: api.Catalog{Kinds: []api.Kind{{Slots: []api.Slot{{Name: "s"}}}}}, Damage: api.Formula{Kids: []api.Formula{{Op: 1}}}}, Keys: []string{"a"}, Subs: []api.Sub{{To: 1}}, Duties: []api.Duty{{Within: 1}}, Warranties: []api.Warranty{{Days: 1}}}
+	}
+	for _, change := range []func(w api.World){func(w api.World) { w.Setup.Catalog.Kinds[0].Slots[0].Name = "x" }, func(w api.World) { w.Setup.Damage.Kids[0].Op = 2 }, func(w api.World) { w.Keys[0] = "x" }, func(w api.World) { w.Subs[0].To = 2 }, func(w api.World) { w.Duties[0].Within = 2 }, func(w api.World) { w.Warranties[0].Days = 2 }} {
+		separate(t, original, copies.World, change)
+	}
+}
