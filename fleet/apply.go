@@ -118,10 +118,10 @@ func noted(p api.Part, e api.Event) api.Part {
 // inserted returns a list in order with a further element, which replaces an equal one.
 func inserted[T any](l []T, e T, compare func(a, b T) int) []T {
 	at, found := slices.BinarySearchFunc(l, e, compare)
-	l = slices.Clone(l)
+	more := make([]T, 0, len(l)+1)
+	more = append(append(more, l[:at]...), e)
 	if found {
-		l[at] = e
-		return l
+		at++
 	}
-	return slices.Insert(l, at, e)
+	return append(more, l[at:]...)
 }
