@@ -34,8 +34,14 @@ func Part(p api.Part) api.Part {
 	return p
 }
 
-// State returns a copy of a state.
-func State(s api.State) api.State { return api.State{Parts: list(s.Parts, Part)} }
+// State returns a copy of a state. (States are copied often, and parts are large: they are copied all at once.)
+func State(s api.State) api.State {
+	parts := slices.Clone(s.Parts)
+	for i := range parts {
+		parts[i].Props = slices.Clone(parts[i].Props)
+	}
+	return api.State{Parts: parts}
+}
 
 // Expr returns a copy of a condition.
 func Expr(e api.Expr) api.Expr {

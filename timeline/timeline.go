@@ -4,9 +4,12 @@ package timeline
 import (
 	"cmp"
 	"slices"
+	"strconv"
 
 	"bogie/api"
+	"bogie/event"
 	"bogie/fleet"
+	"bogie/joined"
 	"bogie/link"
 	"bogie/report"
 )
@@ -102,7 +105,7 @@ func (t *Timeline) decide(n int, choice, found []int) bool {
 	for _, e := range t.components[n].sure {
 		found[e.report] = 0
 	}
-	s := &search{Timeline: t, component: t.components[n], choice: choice, found: found}
+	s := &search{Timeline: t, component: t.components[n], choice: choice, found: found, dead: map[string]bool{}}
 	return s.from(0, moment{sure: t.components[n].sure})
 }
 
@@ -111,6 +114,7 @@ type search struct {
 	*Timeline
 	component
 	choice, found []int
+	dead          map[string]bool // moments, by their keys, from which there is no history
 }
 
 // moment is the state before a day, and the events from then on that are known: sure ones, and those of decided reports.
@@ -131,6 +135,10 @@ func (s *search) from(next int, m moment) bool {
 	if !ok {
 		return false
 	}
+	key := m.key(next)
+	if s.dead[key] {
+		return false
+	}
 	for k := range report.Choices(s.reports[i]) {
 		if s.choice[i] != Open && s.choice[i] != k {
 			continue
@@ -145,7 +153,24 @@ func (s *search) from(next int, m moment) bool {
 			return true
 		}
 	}
+	s.dead[key] = true
 	return false
+}
+
+// key returns all on which it depends whether later events are possible: uses, days and values are not among it.
+func (m moment) key(next int) string {
+	l := []string{strconv.Itoa(next)}
+	for _, e := range m.decided {
+		text, _ := event.Text(e.Event)
+		l = append(l, strconv.Itoa(e.report), text)
+	}
+	for _, p := range m.state.Parts {
+		l = append(l, p.Name, p.Kind, p.Into, p.Slot, strconv.FormatBool(p.Scrapped), strconv.Itoa(len(p.Props)))
+		for _, q := range p.Props {
+			l = append(l, q.Key)
+		}
+	}
+	return joined.Text(l...)
 }
 
 // pass lets all known events before another one happen; false if one of them is not possible.
