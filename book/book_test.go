@@ -79,7 +79,7 @@ func TestDaysValues(t *testing.T) { // P23.1: W2
 		want []int
 	}{
 		{[]api.Amendment{amend(1, 5, 40000, "a", 1)}, []int{5}}, {[]api.Amendment{amend(1, 0, 9, "a", 1), amend(2, 10, 19, "a", 1)}, []int{0, 20}}, {[]api.Amendment{amend(1, 0, 9, "a", 1), amend(2, 10, 19, "b", 1)}, []int{0, 10, 20}},
-		{[]api.Amendment{amend(1, 0, 9, "a", 0)}, nil}, {[]api.Amendment{amend(1, 0, 19, "a", 1), amend(2, 5, 9, "a", 1)}, []int{0, 20}}, {nil, nil},
+		{[]api.Amendment{amend(1, 0, 9, "a", 0)}, nil}, {[]api.Amendment{amend(1, 40000, 40000, "a", 1)}, []int{40000}}, {[]api.Amendment{amend(1, 0, 39999, "a", 1)}, []int{0, 40000}}, {[]api.Amendment{amend(1, 0, 19, "a", 1), amend(2, 5, 9, "a", 1)}, []int{0, 20}}, {nil, nil},
 	} {
 		if got := book.Days(c.l, 5); !slices.Equal(got, c.want) {
 			t.Error(c, got)

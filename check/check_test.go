@@ -63,6 +63,10 @@ func TestValues(t *testing.T) { // P31.1
 			t.Error(i)
 		}
 	}
+	zero := sample.Reports("make 0 c coach | make 1 c coach")
+	if !check.Accept(setup, limit(1), zero, "c", 5, free(split(0, yes, yes))) {
+		t.Error("a split on the first report")
+	}
 	good := free(both)
 	if check.Accept(setup, limit(110), append(l, api.Report{}), "c", 5, good) || check.Accept(api.Setup{Catalog: setup.Catalog}, limit(110), l, "c", 5, good) || check.Accept(setup, limit(110), l, "x", 5, good) || check.Accept(api.Setup{Damage: setup.Damage, Catalog: api.Catalog{Kinds: []api.Kind{{}}}}, limit(110), nil, "c", 5, good) {
 		t.Error("arguments")

@@ -54,6 +54,14 @@ func TestShares(t *testing.T) { // P43.1: AQ1, and P43.3
 			t.Error(i, got, err)
 		}
 	}
+	edge := change(bill, func(c *api.Cost) { c.Day, c.Amount = 0, api.MaxAmount })
+	wide := api.Warranty{Kind: "axle", Maker: "Forge", Days: 40000, Km: api.MaxAmount, Percent: 100}
+	if got, err := cost.Shares([]api.Warranty{{Kind: "motor", Maker: "Mill"}, wide}, axle(40), edge); !slices.Equal(got, []api.Share{share("Forge", api.MaxAmount)}) || err != api.OK {
+		t.Error(got, err)
+	}
+	if got, err := cost.Shares(nil, axle(40), change(bill, func(c *api.Cost) { c.Day, c.Amount = 40000, 1 })); !slices.Equal(got, []api.Share{share("Rail", 1)}) || err != api.OK {
+		t.Error(got, err)
+	}
 	for i, c := range []struct {
 		w    api.Warranty
 		c    api.Cost
@@ -101,6 +109,10 @@ func TestSure(t *testing.T) { // P43.1: AQ2, and P43.5
 	}
 	if _, _, err := cost.Sure(setup, ws, []api.Report{{}}, bill); err != api.ErrArg {
 		t.Error(err)
+	}
+	mill := change(forge(), func(w *api.Warranty) { w.Maker, w.Km = "Mill", 60 })
+	if got, open, err := cost.Sure(setup, []api.Warranty{forge(), mill}, sample.Reports(train+"run 20 v 40 40 0 0 0 0 | run 20 v 60 60 0 0 0 0"), bill); !slices.Equal(got, []api.Share{share("Rail", 200)}) || open != 801 || err != api.OK {
+		t.Error(got, open, err)
 	}
 	all := []api.Warranty{change(forge(), func(w *api.Warranty) { w.Percent = 100 })}
 	if got, open, err := cost.Sure(setup, all, sample.Reports(train+"run 20 v 40 40 0 0 0 0 | run 20 v 60 60 0 0 0 0"), bill); len(got) != 0 || open != 1001 || err != api.OK {

@@ -55,6 +55,9 @@ func TestValues(t *testing.T) { // P35.1: AI1
 			t.Error(c.want, shown(got), err)
 		}
 	}
+	if got, err := due.Days(setup, sample.Rules("rule r for coach: limit age 0;"), state(t, 0, "make 0 v1 coach"), "v1", 0, daily); shown(got) != "v1/r/1 " || err != api.OK {
+		t.Error(got, err)
+	}
 	good := sample.Rules("rule r for coach: true;")
 	for i, c := range []struct {
 		x     api.Setup

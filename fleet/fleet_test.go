@@ -87,6 +87,23 @@ func TestValid(t *testing.T) { // P10.1: J1
 	}
 }
 
+func TestOrderOfParts(t *testing.T) { // P10.1: J1
+	part := func(name string) api.Part { return api.Part{Name: name, Kind: "axle"} }
+	for i, c := range []struct {
+		parts []api.Part
+		want  bool
+	}{{[]api.Part{part("a"), part("b")}, true}, {[]api.Part{part("b"), part("a")}, false}, {[]api.Part{part("a"), part("a")}, false}, {[]api.Part{part("a"), part("b"), part("b")}, false}, {[]api.Part{part("B"), part("a")}, true}} {
+		if fleet.Valid(kinds, api.State{Parts: c.parts}) != c.want {
+			t.Error(i)
+		}
+	}
+	long := part("a")
+	long.Props = []api.Prop{{Key: "k", Value: strings.Repeat("v", 200)}}
+	if !fleet.Valid(kinds, api.State{Parts: []api.Part{long}}) {
+		t.Error("a long value")
+	}
+}
+
 func props(n int) []api.Prop {
 	var l []api.Prop
 	for i := range n {

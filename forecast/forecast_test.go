@@ -81,6 +81,12 @@ func TestReachValues(t *testing.T) { // P36.1: AJ2
 	if may, surely, _ := forecast.Reach(setup, api.Life{Km: in(9, 9)}, nil, "km", 5); may != -1 || surely != -1 {
 		t.Error(may, surely)
 	}
+	if may, surely, err := forecast.Reach(setup, api.Life{}, days, "km", api.MaxAmount); may != -1 || surely != -1 || err != api.OK {
+		t.Error(may, surely, err)
+	}
+	if may, surely, err := forecast.Reach(setup, api.Life{}, days, "km", 0); may != 0 || surely != 0 || err != api.OK {
+		t.Error(may, surely, err)
+	}
 	if may, surely, _ := forecast.Reach(setup, api.Life{}, days, "damage", 16); may != 1 || surely != 2 {
 		t.Error(may, surely)
 	}

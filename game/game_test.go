@@ -43,6 +43,7 @@ func TestValue(t *testing.T) { // P40.1: AN2
 		{of(1, []int{1, 2}, both, both, both), 2, 0}, {of(0, []int{1, 2}, both, both, both), 0, 0}, {of(2, []int{1, 2}, both, both, both), 2, 0}, {of(0, []int{1, 1}, both, []int{0}), 0, 0}, {of(0, nil, nil, nil), 2, 0}, {of(3, []int{5}), 0, 0}, {of(1, []int{5}, []int{0}), 1, 0},
 		// 26 * 26 * 26 * 10 is not too much, 26 * 26 * 26 * 12 is; without departures the number counts as 1.
 		{of(0, []int{12, 12, 12, 4}, both), 0, 0}, {of(0, []int{12, 12, 12, 5}, both), 0, api.ErrLimit}, {of(1, []int{12, 12, 12, 4}, both), 0, api.ErrLimit}, {of(0, []int{12, 12, 12, 4}, both, both), 0, api.ErrLimit}, {of(0, []int{12, 12, 12, 5}), 0, api.ErrLimit}, {of(0, []int{12, 12, 12, 4}), 0, 0}, {of(1, []int{12, 12, 12, 1}, both), 0, 0},
+		{of(0, []int{4, 4, 4, 4, 4}, both, both), 0, 0}, {of(1, []int{4, 4, 4, 4, 4}, both), 0, 0}, {of(1, []int{4, 4, 4, 4, 4}, both, both), 0, api.ErrLimit}, {of(3, []int{1, 1, 1, 1, 1, 1}, both), 0, 0},
 	} {
 		n, err := game.Value(c.g)
 		_, err2 := game.Plan(c.g)

@@ -62,6 +62,11 @@ func TestValues(t *testing.T) { // P15.1
 	if at, err := history.Fails(kinds, l, []int{0, 0, 0, 0, 0}); at != 3 || err != api.ErrTwice {
 		t.Error(at, err)
 	}
+	// The last day is one like any other.
+	l = sample.Reports("make 40000 a axle; ? make 40000 a axle; ? scrap 40000 b")
+	if history.Is(kinds, l, []int{0, 0, 1}) || !history.Is(kinds, l, []int{0, 1, 1}) || !history.False(kinds, l, []int{0, 0, 1}) || history.False(kinds, l, []int{0, 0, -1}) {
+		t.Error("the last day")
+	}
 	bad := append(sample.Reports("make 1 a axle"), api.Report{})
 	for _, choice := range [][]int{{0, 0}, {0, -1}} {
 		if at, err := history.Fails(kinds, bad, choice); at != -1 || err != api.ErrArg || history.False(kinds, bad, choice) || history.Is(kinds, bad, choice) {

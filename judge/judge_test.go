@@ -53,6 +53,30 @@ func TestValues(t *testing.T) { // P42.1
 	}
 }
 
+func TestGames(t *testing.T) { // P42.1: which games are valid
+	for i, c := range []struct {
+		g    api.Game
+		want bool
+	}{{of(3, slices.Repeat([]int{12}, 6)), true}, {of(0, []int{0}), true}, {of(3, slices.Repeat([]int{12}, 7)), false}, {of(4, []int{1}), false}, {of(-1, []int{1}), false}, {of(0, []int{13}), false}, {of(0, []int{1, -1}), false}} {
+		if judge.Accept(c.g, nil, 0) != c.want {
+			t.Error(i)
+		}
+	}
+	// A plan that loses all departures, however many, and whatever they allow.
+	for i, c := range []struct {
+		departures [][]int
+		want       bool
+	}{{make([][]int, 12), true}, {make([][]int, 13), false}, {[][]int{{0, 1}}, true}, {[][]int{{1}}, true}, {[][]int{{0, 0}}, false}, {[][]int{{1, 0}}, false}, {[][]int{{2}}, false}, {[][]int{{-1}}, false}, {[][]int{{0}, {0, 2}}, false}} {
+		var plan []api.Position
+		for turn := range c.departures {
+			plan = append(plan, api.Position{Turn: turn, Starts: []int{1, 1}, Failed: []bool{false, false}, Choice: -1, Bound: len(c.departures) - turn})
+		}
+		if judge.Accept(of(0, []int{1, 1}, c.departures...), plan, len(c.departures)) != c.want {
+			t.Error(i)
+		}
+	}
+}
+
 // each calls a function with random games and plans, some of which are spoilt.
 func each(t *testing.T, seed int64, check func(r *rand.Rand, g api.Game, plan []api.Position)) {
 	t.Helper()

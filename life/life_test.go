@@ -105,6 +105,9 @@ func TestValue(t *testing.T) { // P12.1: L2 and L3, and P12.7
 			t.Error(currency, got, err)
 		}
 	}
+	if got, err := life.Value(v, "age", 0); got != (api.Interval{}) || err != api.OK {
+		t.Error(got, err)
+	}
 	late := api.Part{Made: 5, Since: 8}
 	if got, _ := life.Value(late, "age", 4); got != (api.Interval{}) {
 		t.Error(got)

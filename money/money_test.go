@@ -119,7 +119,7 @@ func TestInCommon(t *testing.T) { // P3.4
 }
 
 func TestPercentValues(t *testing.T) { // P3.1: C2
-	for _, c := range [][3]int{{50, 1, 0}, {150, 1, 2}, {51, 1, 1}, {250, 1, 2}, {350, 1, 4}, {49, 1, 0}, {1001, 80, 801}, {7, 50, 4}, {5, 50, 2}, {0, 100, 0}, {api.MaxAmount, 99, 990000000000}} {
+	for _, c := range [][3]int{{50, 1, 0}, {150, 1, 2}, {51, 1, 1}, {250, 1, 2}, {350, 1, 4}, {49, 1, 0}, {1001, 80, 801}, {7, 50, 4}, {5, 50, 2}, {0, 100, 0}, {70, 0, 0}, {70, 100, 70}, {api.MaxAmount, 100, api.MaxAmount}, {api.MaxAmount, 99, 990000000000}} {
 		if got, err := money.Percent(c[0], c[1]); got != c[2] || err != api.OK {
 			t.Error(c, got, err)
 		}

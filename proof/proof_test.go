@@ -57,7 +57,7 @@ func TestBuild(t *testing.T) { // P29.1: AC1
 	for texts, want := range map[string]string{
 		"make 1 a axle": "h", "scrap 1 a": "f", "": "h", "? scrap 1 a": "0(fh)", "? make 2 a axle; ? scrap 4 a": "0(1(hh)1(fh))",
 		"? scrap 4 a; ? make 2 a axle": "1(0(hh)0(fh))", "? overhaul 4 a; make 1 a axle | make 9 a axle; scrap 0 b": "f", "? overhaul 4 a; make 1 a axle | make 9 a axle; scrap 1 b": "1(ff)", "? make 2 a axle; ? make 2 a axle": "0(1(fh)1(hh))",
-		"make 5 b axle | make 3 b axle; ? make 4 a axle": "0(1(hh)1(hh))", "make 5 b axle | make 4 b axle; ? make 4 a axle": "0(1(hh)1(hh))", "make 5 b axle | make 6 b axle; ? make 4 a axle": "1(0(hh)0(hh))",
+		"make 5 b axle | make 3 b axle; ? make 4 a axle": "0(1(hh)1(hh))", "make 1 a axle; ? scrap 40000 a": "1(hh)", "? make 40000 a axle; ? make 39999 b axle": "1(0(hh)0(hh))", "make 5 b axle | make 4 b axle; ? make 4 a axle": "0(1(hh)1(hh))", "make 5 b axle | make 6 b axle; ? make 4 a axle": "1(0(hh)0(hh))",
 	} {
 		if got, err := proof.Text(build(t, sample.Reports(texts))); got != want || err != api.OK {
 			t.Error(texts, got, err)
@@ -186,6 +186,12 @@ func TestTexts(t *testing.T) { // P29.4, and P29.1: AC4
 			t.Fatal(s)
 		}
 		seen[s] = p
+	}
+	if s, err := proof.Text(split(1, wide(4093), yes, yes)); len(s) == 0 || err != api.OK {
+		t.Error("4096 nodes", err)
+	}
+	if s, err := proof.Text(split(1, wide(4093), yes, yes, yes)); len(s) != 0 || err != api.ErrArg {
+		t.Error("4097 nodes", err)
 	}
 	if p, err := proof.Parse("4999(0(fh)f7(hhhhh))"); !reflect.DeepEqual(p, split(4999, split(0, no, yes), no, split(7, yes, yes, yes, yes, yes))) || err != api.OK {
 		t.Error(p, err)

@@ -14,8 +14,11 @@ func pair(r *reader.Reader) string {
 	if r.Expect(api.TokenNumber) == "0" {
 		r.Fail(api.ErrRange)
 	}
-	if r.Number() == 7 {
+	switch r.Number() {
+	case 7:
 		name += "!"
+	case 1234:
+		name += "?"
 	}
 	if r.Took(api.TokenName, "and") {
 		r.Word("so")
@@ -30,7 +33,7 @@ func TestRead(t *testing.T) {
 		err        api.Errno
 		at         int
 	}{
-		{"a = 5", "a", api.OK, 0}, {"a=7", "a!", api.OK, 0}, {"a=1 and so", "a&", api.OK, 0},
+		{"a = 5", "a", api.OK, 0}, {"a=7", "a!", api.OK, 0}, {"a=007", "a!", api.OK, 0}, {"a=77", "a", api.OK, 0}, {"a=1234 and so", "a?&", api.OK, 0}, {"a=1 and so", "a&", api.OK, 0},
 		{"", "", api.ErrEnd, 0}, {"a = ", "", api.ErrEnd, 4}, {"a = b", "", api.ErrSyntax, 4}, {"a = 0 0", "", api.ErrRange, 4}, {"a = 5 5", "", api.ErrSyntax, 6},
 		{"a = 5 and not", "", api.ErrSyntax, 10}, {"a - 5", "", api.ErrSyntax, 2}, {"a = !", "", api.ErrChar, 4},
 	} {

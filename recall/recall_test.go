@@ -78,8 +78,10 @@ func TestValues(t *testing.T) { // P32.1
 			t.Error(i, got, err)
 		}
 	}
-	if _, err := recall.Concerned(setup, nil, forged, 40000); err != api.OK {
-		t.Error(err)
+	for _, day := range []int{0, 40000} {
+		if _, err := recall.Concerned(setup, nil, forged, day); err != api.OK {
+			t.Error(day, err)
+		}
 	}
 }
 

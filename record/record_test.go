@@ -78,6 +78,13 @@ func TestValid(t *testing.T) { // P48.1: AV1, and P48.7
 			refused(t, change(l[kind-1], f))
 		}
 	}
+	for i, r := range []api.Record{
+		change(l[2], func(r *api.Record) { r.Amendment.From, r.Amendment.To = 0, 40000 }), change(l[2], func(r *api.Record) { r.Amendment.From, r.Amendment.To = 40000, 40000 }), change(l[2], func(r *api.Record) { r.Amendment.From, r.Amendment.To = 7, 7 }), change(l[3], func(r *api.Record) { r.Concession.To = 0 }), change(l[3], func(r *api.Record) { r.Concession.To = 40000 }), change(l[4], func(r *api.Record) { r.Members = []int{59} }), change(l[8], func(r *api.Record) { r.Cost.Day, r.Cost.Amount = 0, 0 }), change(l[8], func(r *api.Record) { r.Cost.Day, r.Cost.Amount = 40000, api.MaxAmount }), change(l[9], func(r *api.Record) { r.Transfer.Amount = 1 }), change(l[9], func(r *api.Record) { r.Transfer.Amount = api.MaxAmount }), change(l[0], func(r *api.Record) { r.Seal = seal(); r.Seal.Path = slices.Repeat([]string{target}, 8) }),
+	} {
+		if !record.Valid(r) {
+			t.Error(i)
+		}
+	}
 	if r := change(l[4], func(r *api.Record) { r.Members = []int{0, 1, 2, 3, 4, 5, 6, 59} }); !record.Valid(r) {
 		t.Error(r)
 	}

@@ -34,7 +34,7 @@ func ands(n int) api.Expr {
 }
 
 func TestValid(t *testing.T) { // P20.1: T1
-	good := append(valid(), ands(59), api.Expr{Op: api.ExprLimit, Name: "true"}, api.Expr{Op: api.ExprLimit, Name: "km", N: 9999999, Extra: 9999999}, api.Expr{Op: api.ExprHas, Name: "not"}, api.Expr{Op: api.ExprIs, Name: "is", Value: strings.Repeat("x", 200)}, api.Expr{Op: api.ExprFitted, Name: "at", Value: "and"})
+	good := append(valid(), ands(59), api.Expr{Op: api.ExprCount, Name: "axle", N: 1}, api.Expr{Op: api.ExprCount, Name: "axle", N: 9999999}, api.Expr{Op: api.ExprLimit, Name: "true"}, api.Expr{Op: api.ExprLimit, Name: "km", N: 9999999, Extra: 9999999}, api.Expr{Op: api.ExprHas, Name: "not"}, api.Expr{Op: api.ExprIs, Name: "is", Value: strings.Repeat("x", 200)}, api.Expr{Op: api.ExprFitted, Name: "at", Value: "and"})
 	for _, e := range good {
 		if !rule.Valid(of(e)) || rule.Valid(api.Rule{Kind: "a", Cond: e}) || rule.Valid(api.Rule{Name: "a", Cond: e}) || rule.Valid(api.Rule{Name: "a b", Kind: "a", Cond: e}) {
 			t.Error(e)

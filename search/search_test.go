@@ -66,6 +66,9 @@ func TestValues(t *testing.T) { // P16.1
 			t.Error(most, n, err)
 		}
 	}
+	if got := all(t, sample.Reports("make 40000 a axle | make 39999 a axle; ? scrap 40000 a; ? make 40000 a axle"), 9); !equal(got, [][]int{{0, 0, 1}, {0, 1, 1}, {1, 0, 1}, {1, 1, 1}}) {
+		t.Error(got)
+	}
 	if got, err := search.All(kinds, nil, 5); !equal(got, [][]int{{}}) || err != api.OK {
 		t.Error(got, err)
 	}

@@ -123,6 +123,11 @@ func TestVerify(t *testing.T) { // P2.1: B3
 			t.Error("accepted:", i)
 		}
 	}
+	first, _ := sign.Sign("s", 2, 0, "m")
+	first.Index = 4 // the same bits on the path
+	if sign.Verify(public, "m", first) {
+		t.Error("there is no such index")
+	}
 	if sign.Verify(public, "n", s) || sign.Verify("", "m", s) {
 		t.Error("another message, or key, is accepted")
 	}

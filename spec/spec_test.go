@@ -32,7 +32,7 @@ func change(f func(w *api.World)) api.World {
 
 func TestValid(t *testing.T) { // P51.1: AY1
 	for i, f := range []func(w *api.World){
-		func(w *api.World) {}, func(w *api.World) { w.Keys = slices.Repeat(w.Keys[:1], 60) }, func(w *api.World) { w.Subs[0].Twin = "front" }, func(w *api.World) { w.Subs, w.Duties, w.Warranties = nil, nil, nil }, func(w *api.World) { w.Subs = slices.Repeat(w.Subs, 300) }, func(w *api.World) { w.Duties = slices.Repeat(w.Duties, 300) }, func(w *api.World) { w.Warranties = slices.Repeat(w.Warranties, 300) },
+		func(w *api.World) {}, func(w *api.World) { w.Keys = slices.Repeat(w.Keys[:1], 60) }, func(w *api.World) { w.Subs[0].Twin = "front" }, func(w *api.World) { w.Subs[0].To, w.Duties[0].Within = 0, 0 }, func(w *api.World) { w.Subs[0].To, w.Duties[0].Within = 40000, 40000 }, func(w *api.World) { w.Duties[0].After = 7 }, func(w *api.World) { w.Subs, w.Duties, w.Warranties = nil, nil, nil }, func(w *api.World) { w.Subs = slices.Repeat(w.Subs, 300) }, func(w *api.World) { w.Duties = slices.Repeat(w.Duties, 300) }, func(w *api.World) { w.Warranties = slices.Repeat(w.Warranties, 300) },
 	} {
 		if !spec.Valid(change(f)) {
 			t.Error(i)

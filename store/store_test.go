@@ -18,6 +18,26 @@ import (
 
 type contents = map[string]string
 
+// The power may also fail while a head is restored.
+func TestRestoring(t *testing.T) { // P47.1: AU1
+	for place := range 2 {
+		for after := range 5 {
+			d := disk.New(20)
+			do(t, open(t, d).Commit(contents{"a": "1"}, nil))
+			d.Rot(place, 3, 1)
+			d.Arm(after, 0, 0)
+			s, err := store.Open(d)
+			if (err == api.ErrPower) != (after < 4) || (s == nil) != (err != api.OK) {
+				t.Error(place, after, err)
+			}
+			d.Start()
+			if got := all(t, open(t, d)); !maps.Equal(got, contents{"a": "1"}) {
+				t.Error(place, after, got)
+			}
+		}
+	}
+}
+
 func open(t *testing.T, d *disk.Disk) *store.Store {
 	t.Helper()
 	s, err := store.Open(d)
@@ -338,6 +358,14 @@ func TestPower(t *testing.T) { // P47.3, P47.4 and P47.8
 				got := all(t, open(t, crashed))
 				if !maps.Equal(got, before) && !maps.Equal(got, then) || !failed && !maps.Equal(got, then) {
 					t.Fatal(round, step, writes, bytes, got, before, then)
+				}
+				// What is compacted afterwards has no traces of what was interrupted.
+				clean := disk.New(30)
+				do(t, open(t, clean).Commit(got, nil))
+				do(t, open(t, clean).Compact())
+				do(t, open(t, crashed).Compact())
+				if crashed.Raw() != clean.Raw() {
+					t.Fatal("traces:", round, step)
 				}
 				if again := all(t, open(t, crashed)); !maps.Equal(got, again) {
 					t.Fatal("opened again:", got, again)
