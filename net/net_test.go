@@ -315,73 +315,75 @@ func TestAnswer(t *testing.T) { // P53.1: BA5
 	}
 }
 
-func TestDivided(t *testing.T) { // P53.1: BA5: messages of at most 18000 bytes
-	all := records(2000, 0)
-	ids := idsOf(all)
-	// An offer of many small ranges, all of whose Ids are wanted.
-	var prefixes []string
-	size := 0
-	for _, a := range "0123456789abcdef" {
-		for _, b := range "0123456789abcdef" {
-			p := string([]rune{a, b})
-			if s := len(joined.Text(span(ids, p)...)); len(span(ids, p)) > 3 && size+s < 19900 {
-				size += s
-				prefixes = append(prefixes, p)
-			}
-		}
-	}
-	message := offer(ids, prefixes...)
-	got := answer(t, nil, message)
-	var wanted []string
-	for _, m := range got {
-		l, _ := joined.List(m)
-		if len(m) > 18000 || l[0] != "want" {
+// together returns the elements of messages behind their first ones, and checks that no message has room for more.
+func together(t *testing.T, messages []string, word string, skip int, size func(l []string) int) []string {
+	t.Helper()
+	var all []string
+	for i, m := range messages {
+		l, ok := joined.List(m)
+		if !ok || l[0] != word || len(m) > 18000 {
 			t.Fatal(len(m), l[0])
 		}
-		wanted = append(wanted, l[1:]...)
+		if i+1 < len(messages) {
+			next, _ := joined.List(messages[i+1])
+			if rest := next[skip:]; len(m)+len(joined.Text(rest[:size(rest)]...)) <= 18000 {
+				t.Fatal("room for more:", i, len(m))
+			}
+		}
+		all = append(all, l[skip:]...)
 	}
+	return all
+}
+
+func TestDivided(t *testing.T) { // P53.1: BA5: messages of at most 18000 bytes
+	// 60 ranges of 16 Ids, all of which are wanted, are more than one want has room for.
+	var wanted []string
+	l := []string{"offer", "60"}
+	for i := range 60 {
+		var ids []string
+		for k := range 16 {
+			ids = append(ids, fmt.Sprintf("%016d", 16*i+k))
+		}
+		l = append(append(l, "", "16", digest.List(ids)), ids...)
+		wanted = append(wanted, ids...)
+	}
+	got := answer(t, nil, joined.Text(l...))
+	if all := together(t, got, "want", 1, func([]string) int { return 1 }); len(got) != 2 || !slices.Equal(all, wanted) {
+		t.Error("wants:", len(got))
+	}
+	// Many small ranges of a depot are more than one offer has room for.
+	own := records(3000, 0)
+	ids := idsOf(own)
+	l = []string{"offer", "16"}
 	var expected []string
-	for _, p := range prefixes {
-		expected = append(expected, span(ids, p)[3:]...)
-	}
-	if !slices.Equal(wanted, expected) {
-		t.Error("wanted")
-	}
-	// Large ranges of a depot with 5000 records are divided into many ranges, which need several offers.
-	many := records(9000, 0)
-	own := idsOf(many)
-	l := []string{"offer", "7"}
-	for _, p := range strings.Split("0123456", "") {
+	for _, p := range strings.Split("0123456789abcdef", "") {
 		l = append(l, p, "17", digest.Sum("x"))
+		for _, q := range strings.Split("0123456789abcdef", "") {
+			expected = append(expected, span(ids, p+q)...)
+		}
 	}
-	offers := answer(t, many, joined.Text(l...))
-	var found []string
-	for i, m := range offers {
+	got = answer(t, own, joined.Text(l...))
+	length := func(rest []string) int { return len(span(ids, rest[0])) }
+	if all := together(t, got, "offer", 2, length); len(got) < 3 || !slices.Equal(all, expected) {
+		t.Error("offers:", len(got))
+	}
+	for _, m := range got { // the number of ranges is right
 		l, _ := joined.List(m)
-		if len(m) > 18000 || l[0] != "offer" {
-			t.Fatal(len(m))
+		n := 0
+		for rest := l[2:]; len(rest) > 0; rest = rest[length(rest):] {
+			n++
 		}
-		if i+1 < len(offers) { // there is no room for the next range
-			next, _ := joined.List(offers[i+1])
-			n := 3
-			if len(span(own, next[2])) > 3 {
-				n = len(span(own, next[2]))
-			}
-			if len(m)+len(joined.Text(next[2:2+n]...)) <= 17990 {
-				t.Fatal("room for more:", len(m))
-			}
-		}
-		for rest := l[2:]; len(rest) > 0; {
-			s := span(own, rest[0])
-			if !slices.Equal(rest[:len(s)], s) {
-				t.Fatal(rest[:3])
-			}
-			found = append(found, rest[0])
-			rest = rest[len(s):]
+		if l[1] != fmt.Sprint(n) {
+			t.Error(l[1], n)
 		}
 	}
-	if len(found) != 7*16 || found[0] != "00" || found[111] != "6f" {
-		t.Error(found)
+	// What has no room at all does not occur: one range, or Id, is always sent.
+	prefix := ids[0]
+	if got := answer(t, own, joined.Text("offer", "1", prefix, "17", digest.Sum("x"))); !slices.Equal(got, []string{offer(ids, prefix)}) {
+		t.Error(got)
+	}
+	if got := answer(t, own, joined.Text("offer", "1", prefix+"0", "17", digest.Sum("x"))); len(got) != 0 {
+		t.Error("a prefix of 17 digits", got)
 	}
 }
 
@@ -396,6 +398,7 @@ func TestForeignMessages(t *testing.T) { // P53.6
 		t.Error("a right offer")
 	}
 	for i, m := range []string{
+		joined.Text("offer", "1", "x", "17", digest.Sum("x")), joined.Text("offer", "1", "0A", "17", digest.Sum("x")), joined.Text("offer", "1", "", "17"), joined.Text("offer", "1", "", "017", digest.Sum("x")),
 		"", "x", "5:offer", want(), "4:want1:", want("x"), want(ids[0], "x"), want(strings.ToUpper(ids[0])), joined.Text("Want", ids[0]), joined.Text("offer"), joined.Text("offer", "0"), joined.Text("offer", "1"), texts[0], want(ids[0]) + "x", want(ids[0]) + "0:", joined.Text(append([]string{"offer", "2"}, good...)...), joined.Text(append([]string{"offer", "01"}, good...)...), joined.Text(append([]string{"offers", "1"}, good...)...),
 		change(func(l []string) []string { l[0] = "x"; return l }), change(func(l []string) []string { l[0] = ids[0][:1]; return l }), change(func(l []string) []string { l[0] = "A"; return l }), change(func(l []string) []string {
 			l[0] = "00000000000000000"

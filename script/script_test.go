@@ -62,7 +62,7 @@ func TestExamples(t *testing.T) { // P54.1
 
 func TestPreparations(t *testing.T) { // P54.1
 	expect(t,
-		"members 0", "members 0: error 1", "members 7", "members 7: error 1", "members 006", "members 6: ok", `catalog "kind a; kind a;"`, "catalog: error 3", `damage "km +"`, "damage: error 9", `damage "km"`, "damage: ok",
+		"members 0", "members 0: error 1", "members 7", "members 7: error 1", "members 1", "members 1: ok", "members 006", "members 6: ok", `catalog "kind a; kind a;"`, "catalog: error 3", `damage "km +"`, "damage: error 9", `damage "km"`, "damage: ok",
 		"permit coach m axle until 40001", "permit: error 1", "permit coach m axle with front until 40000", "permit: ok", "permit coach m axle until 0", "permit: ok",
 		"duty d coach seen after 0 within 5", "duty: error 1", "duty d coach seen after 8 within 5", "duty: error 1", "duty d coach seen after 7 within 40001", "duty: error 1", "duty d coach seen after 1 within 40000", "duty: ok",
 		"warranty axle Forge 40001 5 5", "warranty: error 1", "warranty axle Forge 5 5 101", "warranty: error 1", "warranty axle Forge 40000 9999999 100", "warranty: ok",
