@@ -42,18 +42,21 @@ func Event(text string) api.Event {
 	return must(e, err, text)
 }
 
-// Events returns the events of texts, each of which may have several ones, with semicolons between them.
-func Events(texts ...string) []api.Event {
-	var l []api.Event
+// each returns what a function makes of the parts of texts, between which there are semicolons.
+func each[T any](texts []string, of func(part string) T) []T {
+	var l []T
 	for _, text := range texts {
 		for part := range strings.SplitSeq(text, ";") {
 			if strings.TrimSpace(part) != "" {
-				l = append(l, Event(part))
+				l = append(l, of(part))
 			}
 		}
 	}
 	return l
 }
+
+// Events returns the events of texts, each of which may have several ones, with semicolons between them.
+func Events(texts ...string) []api.Event { return each(texts, Event) }
 
 // Report returns the report with the events of a text, between which there is `|`; it is doubtful if the text begins with `?`.
 func Report(text string) api.Report {
@@ -66,17 +69,7 @@ func Report(text string) api.Report {
 }
 
 // Reports returns the reports of texts, each of which may have several ones, with semicolons between them.
-func Reports(texts ...string) []api.Report {
-	var l []api.Report
-	for _, text := range texts {
-		for part := range strings.SplitSeq(text, ";") {
-			if strings.TrimSpace(part) != "" {
-				l = append(l, Report(part))
-			}
-		}
-	}
-	return l
-}
+func Reports(texts ...string) []api.Report { return each(texts, Report) }
 
 // Rule returns the rule of a text.
 func Rule(text string) api.Rule {
