@@ -55,6 +55,25 @@ func TestAccept(t *testing.T) { // P45.1: AS1
 	}
 }
 
+func TestInvalid(t *testing.T) { // P45.1: AS1
+	l := sample.Reports(train)
+	for i, f := range []func(w *api.Warranty){func(w *api.Warranty) { w.Kind = "" }, func(w *api.Warranty) { w.Maker = "a b" }, func(w *api.Warranty) { w.Days = -1 }, func(w *api.Warranty) { w.Days = 40001 }, func(w *api.Warranty) { w.Km = -1 }, func(w *api.Warranty) { w.Km = api.MaxAmount + 1 }, func(w *api.Warranty) { w.Percent = -1 }, func(w *api.Warranty) { w.Percent = 101 }} {
+		w := forge(80, 60)
+		f(&w)
+		if audit.Accept(setup, []api.Warranty{w}, l, nil, nil, nil) {
+			t.Error(i)
+		}
+	}
+	// A cost that is not valid costs nobody anything.
+	for i, f := range []func(c *api.Cost){func(c *api.Cost) { c.Part = "" }, func(c *api.Cost) { c.Owner = "" }, func(c *api.Cost) { c.Day = -1 }, func(c *api.Cost) { c.Day = 40001 }, func(c *api.Cost) { c.Amount = -1 }, func(c *api.Cost) { c.Amount = api.MaxAmount + 1 }} {
+		c := bill("Rail", 1000)
+		f(&c)
+		if !audit.Accept(setup, []api.Warranty{forge(80, 60)}, l, []api.Cost{c}, nil, nil) {
+			t.Error(i)
+		}
+	}
+}
+
 func TestLarge(t *testing.T) { // P45.1: AS1
 	l := sample.Reports("make 10 a axle")
 	for i := range 31 {

@@ -62,6 +62,18 @@ func TestValues(t *testing.T) { // P15.1
 	if at, err := history.Fails(kinds, l, []int{0, 0, 0, 0, 0}); at != 3 || err != api.ErrTwice {
 		t.Error(at, err)
 	}
+	// All days of open reports count, in whatever order their options stand.
+	for i, c := range []struct {
+		texts string
+		want  bool
+	}{{"make 5 a axle | make 1 a axle; scrap 3 a", false}, {"make 1 a axle | make 5 a axle; scrap 3 a", false}, {"make 5 a axle | make 4 a axle; scrap 3 a", true}, {"? make 9 b axle; make 5 a axle | make 2 a axle; scrap 3 a", false}} {
+		l := sample.Reports(c.texts)
+		choice := slices.Repeat([]int{-1}, len(l))
+		choice[len(l)-1] = 0
+		if history.False(kinds, l, choice) != c.want {
+			t.Error(i)
+		}
+	}
 	// The last day is one like any other.
 	l = sample.Reports("make 40000 a axle; ? make 40000 a axle; ? scrap 40000 b")
 	if history.Is(kinds, l, []int{0, 0, 1}) || !history.Is(kinds, l, []int{0, 1, 1}) || !history.False(kinds, l, []int{0, 0, 1}) || history.False(kinds, l, []int{0, 0, -1}) {
