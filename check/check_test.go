@@ -75,6 +75,10 @@ func TestValues(t *testing.T) { // P31.1
 	if !check.Accept(setup, limit(110), l, "x", 5, unknown) {
 		t.Error("an unknown vehicle")
 	}
+	gone := api.Verdict{Kind: api.VerdictFault, History: []int{0, 0, 0, 0}, Faults: []api.Fault{{Kind: api.FaultState, Part: "c"}}}
+	if check.Accept(api.Setup{Catalog: setup.Catalog}, limit(110), l, "c", 5, gone) {
+		t.Error("a setup that is not valid, and a fault")
+	}
 	impossible := append(l, sample.Report("remove 9 c"))
 	for _, c := range []struct {
 		p    api.Step
@@ -87,6 +91,25 @@ func TestValues(t *testing.T) { // P31.1
 	late := append(sample.Reports("remove 0 c"), l...)
 	if !check.Accept(setup, limit(110), late, "c", 5, api.Verdict{Kind: api.VerdictNone, Proof: no}) || check.Accept(setup, limit(110), late, "c", 5, api.Verdict{Kind: api.VerdictNone, Proof: no, History: []int{0}}) || check.Accept(setup, limit(110), late, "c", 5, api.Verdict{Kind: api.VerdictNone, Proof: no, Faults: unknown.Faults}) {
 		t.Error("false at once")
+	}
+}
+
+// whole returns a certificate that splits on all of some reports.
+func whole(from, to int) api.Step {
+	if from > to {
+		return yes
+	}
+	return split(from, whole(from+1, to), whole(from+1, to))
+}
+
+func TestLarge(t *testing.T) { // P31.1: a certificate has at most 4096 nodes
+	l := sample.Reports("make 0 c coach")
+	for n := 1; n < 13; n++ {
+		l = append(l, sample.Report(fmt.Sprintf("? overhaul %d c", n)))
+		v := api.Verdict{Kind: api.VerdictReleased, Proof: whole(1, n)}
+		if n > 9 && check.Accept(setup, api.Book{}, l, "c", 50, v) != (n < 12) {
+			t.Error(n)
+		}
 	}
 }
 

@@ -74,6 +74,9 @@ func TestPermitted(t *testing.T) { // P27.1: AA2
 	if concede.Permitted(kinds, []api.Sub{sub("", 9)}, s, "m1", 5) || concede.Permitted(kinds, nil, s, "m2", 5) {
 		t.Error("no host")
 	}
+	if anyHost := []api.Sub{{Slot: "a", Other: "diesel", To: 9}}; concede.Permitted(kinds, anyHost, s, "m1", 5) {
+		t.Error("no host, and a substitution for no kind")
+	}
 	double := api.State{Parts: append(train().Parts, api.Part{Name: "v1", Kind: "bus"}, api.Part{Name: "m3", Kind: "diesel", Into: "v1", Slot: "b"}, api.Part{Name: "m1", Kind: "motor"})}
 	double.Parts[1].Into = ""
 	if !concede.Permitted(kinds, []api.Sub{sub("b", 9)}, double, "m1", 5) || concede.Permitted(kinds, nil, double, "m1", 5) {

@@ -80,6 +80,18 @@ func TestTooMany(t *testing.T) { // P24.1: X1 and X2
 			t.Error(n, got)
 		}
 	}
+	// Far too many cases are too many, too.
+	var far []string
+	for i := range 4 {
+		c := "true"
+		for k := range 20 {
+			c += fmt.Sprintf(" and at least %d axle", 1+20*i+k)
+		}
+		far = append(far, c)
+	}
+	if got, is := conflict.Contradiction(rules(append(far, "not true")...), "coach"); is || len(got) != 0 {
+		t.Error(got, is)
+	}
 	// A property counts one more than its values, and nothing; it is 2 without values.
 	var is []string
 	for i := range 30 {
@@ -101,6 +113,14 @@ func TestDead(t *testing.T) { // P24.1: X2
 	l := rules("limit km 5 or over km 5", "true", "has x", "has x or not has x", `x = "1" or not has x`, "limit km 5 or over km 4", "limit km 5 or over km 6", "not (at least 1 axle and not at least 1 axle)", "at least 1 axle or true", "all axle (true)", `not (x = "1" and x = "2")`)
 	l = append(l, api.Rule{Name: "z", Kind: "k"}, l[1])
 	if got := strings.Join(conflict.Dead(l), ""); got != "abdfhikb" {
+		t.Error(got)
+	}
+	bad := rules("true", "not true")
+	bad[0].Name, bad[1].Name = "", "a b" // rules that are not valid are left out
+	if got := conflict.Dead(bad); len(got) != 0 {
+		t.Error(got)
+	}
+	if got, is := conflict.Contradiction(bad, "coach"); is || len(got) != 0 {
 		t.Error(got)
 	}
 	if got := conflict.Dead(nil); len(got) != 0 {
