@@ -268,10 +268,34 @@ func TestCompaction(t *testing.T) { // P52.7
 		if err := d.Compact(); err != api.OK || !slices.Equal(texts, kept) || !slices.Equal(d.Texts(), kept) || p.Raw() != raw {
 			t.Fatal("a second time", err)
 		}
-		same(t, open(t, p), l)
+		again := open(t, p)
+		same(t, again, l)
+		if !slices.Equal(again.Texts(), kept) {
+			t.Fatal("they are still there")
+		}
 	}
 	if dropped < 3 {
 		t.Error("too few cases:", dropped)
+	}
+}
+
+// If the records cannot be removed from the store, they stay.
+func TestFailedCompaction(t *testing.T) { // P52.1: AZ6
+	r := rand.New(rand.NewSource(4))
+	for {
+		l := random(r)
+		if len(keep.Keep(l)) == len(l) {
+			continue
+		}
+		p := disk.New(2000)
+		d := open(t, p)
+		receive(t, d, l...)
+		before := d.Texts()
+		p.Arm(0, 0, 0)
+		if err := d.Compact(); err != api.ErrPower || !slices.Equal(d.Texts(), before) || d.Compact() != api.ErrState {
+			t.Error(err)
+		}
+		break
 	}
 }
 

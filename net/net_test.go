@@ -398,7 +398,7 @@ func TestForeignMessages(t *testing.T) { // P53.6
 		t.Error("a right offer")
 	}
 	for i, m := range []string{
-		joined.Text("offer", "1", "x", "17", digest.Sum("x")), joined.Text("offer", "1", "0A", "17", digest.Sum("x")), joined.Text("offer", "1", "", "17"), joined.Text("offer", "1", "", "017", digest.Sum("x")),
+		joined.Text("offer", "1", "", "16", digest.Sum("x")), joined.Text("offer", "1", "", "1", digest.List([]string{""}), ""), joined.Text("offer", "1", "x", "17", digest.Sum("x")), joined.Text("offer", "1", "0A", "17", digest.Sum("x")), joined.Text("offer", "1", "", "17"), joined.Text("offer", "1", "", "017", digest.Sum("x")),
 		"", "x", "5:offer", want(), "4:want1:", want("x"), want(ids[0], "x"), want(strings.ToUpper(ids[0])), joined.Text("Want", ids[0]), joined.Text("offer"), joined.Text("offer", "0"), joined.Text("offer", "1"), texts[0], want(ids[0]) + "x", want(ids[0]) + "0:", joined.Text(append([]string{"offer", "2"}, good...)...), joined.Text(append([]string{"offer", "01"}, good...)...), joined.Text(append([]string{"offers", "1"}, good...)...),
 		change(func(l []string) []string { l[0] = "x"; return l }), change(func(l []string) []string { l[0] = ids[0][:1]; return l }), change(func(l []string) []string { l[0] = "A"; return l }), change(func(l []string) []string {
 			l[0] = "00000000000000000"

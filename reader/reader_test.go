@@ -35,7 +35,7 @@ func TestRead(t *testing.T) {
 	}{
 		{"a = 5", "a", api.OK, 0}, {"a=7", "a!", api.OK, 0}, {"a=007", "a!", api.OK, 0}, {"a=77", "a", api.OK, 0}, {"a=1234 and so", "a?&", api.OK, 0}, {"a=1 and so", "a&", api.OK, 0},
 		{"", "", api.ErrEnd, 0}, {"a = ", "", api.ErrEnd, 4}, {"a = b", "", api.ErrSyntax, 4}, {"a = 0 0", "", api.ErrRange, 4}, {"a = 5 5", "", api.ErrSyntax, 6},
-		{"a = 5 and not", "", api.ErrSyntax, 10}, {"a - 5", "", api.ErrSyntax, 2}, {"a = !", "", api.ErrChar, 4},
+		{"a = 5 and not", "", api.ErrSyntax, 10}, {"a - 5", "", api.ErrSyntax, 2}, {"a 5", "", api.ErrSyntax, 2}, {"a = 5 and", "", api.ErrEnd, 9}, {"a = !", "", api.ErrChar, 4},
 	} {
 		if got, err, at := reader.Read(c.text, pair); got != c.want || err != c.err || at != c.at {
 			t.Error(c, got, err, at)

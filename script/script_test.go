@@ -88,6 +88,15 @@ func TestRecords(t *testing.T) { // P54.1
 		"send 1 0", "send 1: 1", "verdict 0 v1 5", "verdict 0: released", "crash 0", "crash 0: ok", "verdict 0 v1 5", "verdict 0: released", "send 1 1", "send 1: 1")
 }
 
+func TestTwins(t *testing.T) { // P54.1
+	begin := `catalog "kind axle; kind motor; vehicle coach (m: motor + axle; n: motor + axle);"; permit coach m axle with n until 9; permit coach n axle until 9; open 1; `
+	begin += "report 0 at 0 " + made("v1", "coach") + "; report 0 at 0 " + made("a", "axle") + "; report 1 at 0 " + made("b", "axle") + `; report 1 at 0 "sure\nfit 2 a v1 m\n"; report 0 at 0 "sure\nfit 4 b v1 n\n"; `
+	got := run(t, begin+"verdict 0 v1 3; verdict 0 v1 4; verdict 0 v1 9; verdict 0 v1 10;")
+	if want := []string{"verdict 0: fault 2/a/m", "verdict 0: released", "verdict 0: released", "verdict 0: fault 2/a/m 2/b/n"}; !slices.Equal(got[len(got)-4:], want) {
+		t.Error(got)
+	}
+}
+
 func TestLimits(t *testing.T) { // P54.1
 	text := kinds + ";open 1;"
 	for i := range 9 { // a member can sign 8 records

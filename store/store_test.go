@@ -93,6 +93,48 @@ func TestOpen(t *testing.T) { // P47.1: AU1
 	}
 }
 
+// Opening writes no more than is needed, so that a failure of the power later does not matter.
+func TestFewWrites(t *testing.T) { // P47.1: AU1
+	for damaged, calls := range []int{0, 2} { // a new disk, and one whose sector 1 has other bytes
+		for after := range 4 {
+			d := disk.New(20)
+			if damaged == 1 {
+				d.Rot(1, 5, 1)
+			}
+			d.Arm(after, 0, 0)
+			if _, err := store.Open(d); (err == api.OK) != (after >= calls) {
+				t.Error(damaged, after, err)
+			}
+		}
+	}
+}
+
+// A store in area 1 is compacted to area 0, without a moment at which it is lost.
+func TestAreaOne(t *testing.T) { // P47.4, and P47.1: AU4
+	want := contents{"b": "2", "c": strings.Repeat("x", 90)}
+	raw := layout(20, 1, commit("1", "a", "1", "0"), commit("2", "b", "2", "c", want["c"], "1", "a"))
+	for step := 0; ; step++ {
+		d := burn(t, raw)
+		s := open(t, d)
+		d.Arm(step, step%3, 17*step%65)
+		err := s.Compact()
+		d.Start()
+		if got := all(t, open(t, d)); !maps.Equal(got, want) {
+			t.Fatal(step, got)
+		}
+		if err == api.OK {
+			if d.Raw() != layout(20, 0, commit("2", "b", "2", "c", want["c"], "0")) {
+				t.Error("layout")
+			}
+			// The pieces, both heads and all other sectors were written once, with a Sync behind each group.
+			if want := 3 + 1 + 4 + 9 + 1 + 6 + 1; step != want {
+				t.Error("calls:", step, want)
+			}
+			break
+		}
+	}
+}
+
 func TestNil(t *testing.T) { // P47.1
 	var s *store.Store
 	value, ok := s.Get("a")
