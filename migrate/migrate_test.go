@@ -47,6 +47,78 @@ func product(a, b, c, d int) int {
 	return x.Mul(x, big.NewInt(int64(b))).Cmp(y.Mul(y, big.NewInt(int64(d))))
 }
 
+// exact is Scale for valid arguments, with numbers of any size.
+func exact(used api.Interval, limit, next int) (api.Interval, api.Errno) {
+	quotient := func(n, more int) *big.Int {
+		product := big.NewInt(int64(n))
+		product.Mul(product, big.NewInt(int64(next))).Add(product, big.NewInt(int64(more)))
+		return product.Div(product, big.NewInt(int64(limit)))
+	}
+	low, high := quotient(used.Low, 0), quotient(used.High, limit-1)
+	if high.Cmp(big.NewInt(most)) > 0 {
+		return api.Interval{}, api.ErrLimit
+	}
+	return in(int(low.Int64()), int(high.Int64())), api.OK
+}
+
+// checkExact compares Scale, and Chain of two limits and of three, with exact numbers.
+func checkExact(t *testing.T, used api.Interval, limit, next int) {
+	t.Helper()
+	want, wantErr := exact(used, limit, next)
+	if got, err := migrate.Scale(used, limit, next); got != want || err != wantErr {
+		t.Fatal(used, limit, next, got, err)
+	}
+	for _, limits := range [][]int{{limit, next}, {limit, limit, next}, {limit, next, next}} {
+		if got, err := migrate.Chain(used, limits); got != want || err != wantErr {
+			t.Fatal(used, limits, got, err)
+		}
+	}
+}
+
+func TestQuotientsAtTwoToThe64(t *testing.T) { // P25.1: Y1 and Y2, and P25.2
+	// (m * 2^32 - j) * (m * 2^32 + j) / m^2 is 2^64 for j = 0, 2^64 - 1 for j = m, between both for less, and below for more.
+	for m := 1; m <= 232; m++ {
+		for j := range m + 2 {
+			a, b := m<<32-j, m<<32+j
+			checkExact(t, in(0, a), m*m, b)
+			checkExact(t, in(m-1, b), m*m, a)
+		}
+	}
+	for _, used := range []api.Interval{in(0, 3302146633), in(5, 3302146633), in(3302146633, 3302146633)} {
+		for limit := 170; limit < 190; limit++ {
+			checkExact(t, used, limit, 999945658438)
+			checkExact(t, in(used.Low, 999945658438), limit, 3302146633)
+		}
+	}
+	// The life becomes 2^33 - 1 for the limit 4 by a step before: it is 2^64 - 1/4 for 2^33 + 1.
+	for _, limits := range [][]int{{8, 4, 1<<33 + 1}, {8, 4, 1<<33 + 1, 1}} {
+		if got, err := migrate.Chain(in(0, 1<<34-2), limits); got != in(0, 0) || err != api.ErrLimit {
+			t.Error(limits, got, err)
+		}
+	}
+}
+
+func TestExact(t *testing.T) { // P25.1: Y1 and Y2
+	r := rand.New(rand.NewSource(6))
+	amount := func() int { return 1 + r.Intn([]int{10, 100000, most}[r.Intn(3)]) }
+	failed := 0
+	for range 20000 {
+		high, limit, next := amount(), amount(), amount()
+		if r.Intn(2) == 0 { // a High that leads to about the greatest amount, or to about a power of 2
+			q := []float64{most, 1 << 32, 1 << 63, 1 << 64, 1 << 65}[r.Intn(5)]
+			high = int(min(q*float64(limit)/float64(next), most-2)) + r.Intn(3)
+		}
+		used := in(r.Intn(high+1), high)
+		if _, err := exact(used, limit, next); err != api.OK {
+			failed++
+		}
+		checkExact(t, used, limit, next)
+	}
+	if failed < 4000 || failed > 16000 {
+		t.Error("too few cases of a kind:", failed)
+	}
+}
+
 func TestNothingGivenBack(t *testing.T) { // P25.2
 	r := rand.New(rand.NewSource(1))
 	done := 0
